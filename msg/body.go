@@ -2,6 +2,7 @@ package msg
 
 import (
 	"tidemark/api"
+	"tidemark/valid"
 	"tidemark/wire"
 )
 
@@ -92,7 +93,7 @@ func message(from, to uint32, b body) api.Msg {
 	return m
 }
 
-func (b *read) valid() bool { return len(b.reads) == 1 && validReads(b.reads) }
+func (b *read) valid() bool { return len(b.reads) == 1 && valid.Reads(b.reads) }
 
 func (b *read) put(e *wire.Enc) {
 	putNumber(e, b.op)
@@ -109,7 +110,7 @@ func (b *data) valid() bool {
 	if b.status != api.OK && len(b.pairs) > 0 {
 		return false
 	}
-	return dataStatus(b.status) && validPairs(b.pairs)
+	return dataStatus(b.status) && valid.Pairs(b.pairs)
 }
 
 func (b *data) put(e *wire.Enc) {
@@ -128,7 +129,7 @@ func (b *prepare) valid() bool {
 	if len(b.reads) == 0 && len(b.writes) == 0 {
 		return false
 	}
-	return b.transaction.valid() && validReads(b.reads) && validWrites(b.writes)
+	return b.transaction.valid() && valid.Reads(b.reads) && valid.Writes(b.writes)
 }
 
 func (b *prepare) put(e *wire.Enc) {

@@ -4,6 +4,7 @@ import (
 	"math"
 
 	"tidemark/api"
+	"tidemark/valid"
 	"tidemark/wire"
 )
 
@@ -15,7 +16,7 @@ type transaction struct {
 
 func transactionOf(m api.Msg) transaction { return transaction{m.Txn, m.Home} }
 
-func (t *transaction) valid() bool { return t.txn.Seq >= 1 }
+func (t *transaction) valid() bool { return valid.Txn(t.txn) }
 
 func (t *transaction) put(e *wire.Enc) {
 	putNumber(e, t.txn.Client)
@@ -72,56 +73,6 @@ func voteStatus(s api.Errno) bool {
 	}
 	return false
 }
-
-func validReads(list []api.Span) bool {
-	if len(list) > api.MaxReads {
-		return false
-	}
-	for _, s := range list {
-		if !validSpan(s) {
-			return false
-		}
-	}
-	return true
-}
-
-func validSpan(s api.Span) bool {
-	if len(s.Lo) > api.MaxBound || len(s.Hi) > api.MaxBound {
-		return false
-	}
-	return s.Hi == "" || s.Lo < s.Hi
-}
-
-func validWrites(list []api.Write) bool {
-	if len(list) > api.MaxWrites {
-		return false
-	}
-	last := ""
-	for _, w := range list {
-		if !nextKey(last, w.Key) || len(w.Value) > api.MaxValue || w.Delete && w.Value != "" {
-			return false
-		}
-		last = w.Key
-	}
-	return true
-}
-
-func validPairs(list []api.Pair) bool {
-	if len(list) > api.MaxPairs {
-		return false
-	}
-	last := ""
-	for _, p := range list {
-		if !nextKey(last, p.Key) || len(p.Value) > api.MaxValue {
-			return false
-		}
-		last = p.Key
-	}
-	return true
-}
-
-// nextKey tells whether a key may stand behind last. The empty text stands ahead of all: it is no key itself, and each key is above it.
-func nextKey(last, key string) bool { return last < key && len(key) <= api.MaxKey }
 
 func putNumber(e *wire.Enc, n uint32) { e.Var(uint64(n)) }
 
