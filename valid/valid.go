@@ -9,6 +9,12 @@ func Txn(id api.Txn) bool { return id.Seq >= 1 }
 // Usable tells whether a stamp may be issued, served or decided at.
 func Usable(s api.Stamp) bool { return s.Wall < api.TopWall }
 
+// Key tells whether a text is a key.
+func Key(text string) bool { return text != "" && len(text) <= api.MaxKey }
+
+// Value tells whether a text is a value.
+func Value(text string) bool { return len(text) <= api.MaxValue }
+
 // Span tells whether a span is valid.
 func Span(s api.Span) bool {
 	if len(s.Lo) > api.MaxBound || len(s.Hi) > api.MaxBound {
@@ -30,14 +36,19 @@ func Reads(list []api.Span) bool {
 	return true
 }
 
+// Write tells whether a write may stand among valid writes.
+func Write(w api.Write) bool {
+	return Key(w.Key) && Value(w.Value) && (!w.Delete || w.Value == "")
+}
+
 // Writes tells whether writes are valid writes.
 func Writes(list []api.Write) bool {
 	if len(list) > api.MaxWrites {
 		return false
 	}
-	last := ""
+	last := "" // below every key
 	for _, w := range list {
-		if !nextKey(last, w.Key) || len(w.Value) > api.MaxValue || w.Delete && w.Value != "" {
+		if !Write(w) || w.Key <= last {
 			return false
 		}
 		last = w.Key
@@ -50,15 +61,12 @@ func Pairs(list []api.Pair) bool {
 	if len(list) > api.MaxPairs {
 		return false
 	}
-	last := ""
+	last := "" // below every key
 	for _, p := range list {
-		if !nextKey(last, p.Key) || len(p.Value) > api.MaxValue {
+		if !Key(p.Key) || !Value(p.Value) || p.Key <= last {
 			return false
 		}
 		last = p.Key
 	}
 	return true
 }
-
-// nextKey tells whether a key may stand behind last. The empty text stands ahead of all: it is no key itself, and each key is above it.
-func nextKey(last, key string) bool { return last < key && len(key) <= api.MaxKey }

@@ -70,6 +70,29 @@ func TestAUsableStampHasAWallBelowTheTop(t *testing.T) {
 	}
 }
 
+func TestKeysAndValues(t *testing.T) {
+	for _, text := range []string{"\x00", "a", long(maxKey)} {
+		if !Key(text) {
+			t.Errorf("Key(%q) = false", text)
+		}
+	}
+	for _, text := range []string{"", long(maxKey + 1), long(1000)} {
+		if Key(text) {
+			t.Errorf("Key(%q) = true", text)
+		}
+	}
+	for _, text := range []string{"", "\x00", "a", long(maxValue)} {
+		if !Value(text) {
+			t.Errorf("Value(%q) = false", text)
+		}
+	}
+	for _, text := range []string{long(maxValue + 1), long(1000)} {
+		if Value(text) {
+			t.Errorf("Value(%q) = true", text)
+		}
+	}
+}
+
 func TestSpansAndReads(t *testing.T) {
 	good := []api.Span{
 		{}, {Lo: "a"}, {Hi: "a"}, {Lo: "a", Hi: "a\x00"}, {Lo: "a", Hi: "b"}, {Lo: "\x7f", Hi: "\x80"}, {Hi: "\x00"},
@@ -112,6 +135,19 @@ func TestWrites(t *testing.T) {
 	} {
 		if Writes(list) {
 			t.Errorf("wrong row %d is taken", i)
+		}
+	}
+}
+
+func TestOneWrite(t *testing.T) {
+	for _, w := range []api.Write{{Key: "a"}, {Key: "a", Value: "v"}, {Key: "a", Delete: true}, {Key: long(maxKey), Value: long(maxValue)}} {
+		if !Write(w) {
+			t.Errorf("Write(%v) = false", w)
+		}
+	}
+	for _, w := range []api.Write{{}, {Value: "v"}, {Delete: true}, {Key: long(maxKey + 1)}, {Key: "a", Value: long(maxValue + 1)}, {Key: "a", Delete: true, Value: "v"}} {
+		if Write(w) {
+			t.Errorf("Write(%v) = true", w)
 		}
 	}
 }
