@@ -20,18 +20,18 @@ func Text(c api.Config) (string, api.Errno) {
 	if !mayBe(c) {
 		return "", api.ErrArg
 	}
-	text := line("shards", strconv.Itoa(c.Shards)) +
-		line("clients", strconv.Itoa(c.Clients)) +
-		line("capacity", strconv.Itoa(c.Capacity)) +
-		line("park", strconv.Itoa(c.Park)) +
-		line("window", strconv.FormatUint(c.Window, 10))
+	text := lineOf("shards", strconv.Itoa(c.Shards)) +
+		lineOf("clients", strconv.Itoa(c.Clients)) +
+		lineOf("capacity", strconv.Itoa(c.Capacity)) +
+		lineOf("park", strconv.Itoa(c.Park)) +
+		lineOf("window", strconv.FormatUint(c.Window, 10))
 	for _, split := range c.Splits {
-		text += line("split", Word(split))
+		text += lineOf("split", Word(split))
 	}
 	return text, api.OK
 }
 
-func line(name, word string) string { return name + " " + word + "\n" }
+func lineOf(name, word string) string { return name + " " + word + "\n" }
 
 // mayBe tells whether a configuration is valid.
 func mayBe(c api.Config) bool {
