@@ -134,6 +134,17 @@ func TestANewStoreIsEmpty(t *testing.T) {
 	wantAbove(t, s, whole, api.Stamp{}, false)
 }
 
+// A Store as Go makes it is an empty one.
+func TestAStoreThatNewDidNotMakeIsEmpty(t *testing.T) {
+	s := &Store{}
+	wantAll(t, s)
+	wantRead(t, s, whole, end)
+	wantAbove(t, s, whole, api.Stamp{}, false)
+	wantPrune(t, s, at(1, 0, 0), 0, at(1, 0, 0))
+	wantInstall(t, s, at(2, 0, 0), api.OK, put("a", "1"))
+	wantAll(t, s, version("a", at(2, 0, 0), "1"))
+}
+
 // P9.2 to P9.7
 func TestTheChaptersExamples(t *testing.T) {
 	s := New()
