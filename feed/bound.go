@@ -2,23 +2,23 @@ package feed
 
 import (
 	"tidemark/api"
+	"tidemark/durable"
 	"tidemark/stamp"
-	"tidemark/state"
 	"tidemark/wal"
 )
 
 // Bound tells a stamp below which no commit can come any more (P19.1).
 func Bound(r api.Result) api.Stamp {
 	var bounds []api.Stamp
-	for node, s := range r.Shards {
-		bounds = append(bounds, boundOf(uint32(node), s))
+	for place, s := range r.Shards {
+		bounds = append(bounds, boundOf(place, s))
 	}
 	return least(bounds...)
 }
 
 // boundOf tells the least stamp that one shard may still have a part in: by its clock, by what it holds, and by what it would come back with behind a crash, whatever that keeps.
-func boundOf(node uint32, s api.Shown) api.Stamp {
-	safe := durable(node, s)
+func boundOf(place int, s api.Shown) api.Stamp {
+	safe := durable.State(place, s)
 	bounds := []api.Stamp{s.Last, {Wall: safe.Ceiling()}}
 	for _, h := range s.Held {
 		bounds = append(bounds, h.At)
@@ -30,16 +30,6 @@ func boundOf(node uint32, s api.Shown) api.Stamp {
 		bounds = append(bounds, unsynced(s.Disk[slot], s.Written[slot])...)
 	}
 	return least(bounds...)
-}
-
-// durable gives the state that the shard's synced bytes hold, an empty one if they hold none.
-func durable(node uint32, s api.Shown) *state.State {
-	_, records := wal.Pick(s.Disk[0], s.Disk[1])
-	safe, e := state.Replay(node, records)
-	if e != api.OK {
-		return state.New(node)
-	}
-	return safe
 }
 
 // unsynced gives the stamps of the Prepares that are written to a slot and not synced. That one is decided already doesn't count: a crash may keep the Prepare without the decision.

@@ -7,6 +7,7 @@ import (
 	"tidemark/api"
 	"tidemark/cluster"
 	"tidemark/disk"
+	"tidemark/durable"
 	"tidemark/state"
 	"tidemark/wal"
 )
@@ -67,7 +68,7 @@ func TestExamples(t *testing.T) {
 func TestExampleUnsynced(t *testing.T) {
 	p := cluster.Run(alone, late)
 	wantBound(t, "neither record is synced", p, at(0, 2, 0))
-	if s := p.Shards[0]; len(s.Held) != 0 || s.Last != at(5, 0, 2) || len(durable(0, s).Held()) != 0 || durable(0, s).Ceiling() != 11 {
+	if s := p.Shards[0]; len(s.Held) != 0 || s.Last != at(5, 0, 2) || len(durable.State(0, s).Held()) != 0 || durable.State(0, s).Ceiling() != 11 {
 		t.Errorf("example 5 is told otherwise: %+v", s)
 	}
 	r := cluster.Run(alone, late+"\ncrash 0 35 0\ntick 1\ncalm 0\ncalm 0\ncalm 0\ncalm 0")

@@ -57,10 +57,10 @@ func Writes(list []api.Write) bool {
 }
 
 // Pairs tells whether pairs are valid pairs.
-func Pairs(list []api.Pair) bool {
-	if len(list) > api.MaxPairs {
-		return false
-	}
+func Pairs(list []api.Pair) bool { return len(list) <= api.MaxPairs && AnyPairs(list) }
+
+// AnyPairs tells whether pairs are valid but for their number.
+func AnyPairs(list []api.Pair) bool {
 	last := "" // below every key
 	for _, p := range list {
 		if !Key(p.Key) || !Value(p.Value) || p.Key <= last {

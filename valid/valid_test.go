@@ -157,16 +157,20 @@ func TestPairs(t *testing.T) {
 		nil, {}, pairs("a"), pairs("a", "a\x00", "b"), pairs("\x7f", "\x80"), pairs(keys(maxPairs)...), pairs(long(maxKey)),
 		{{Key: "a"}}, {{Key: "a", Value: long(maxValue)}},
 	} {
-		if !Pairs(list) {
+		if !Pairs(list) || !AnyPairs(list) {
 			t.Errorf("row %d is refused", i)
 		}
 	}
 	for i, list := range [][]api.Pair{
-		pairs(""), pairs("a", ""), pairs("a", "a"), pairs("b", "a"), pairs("\x80", "\x7f"), pairs(keys(maxPairs + 1)...),
+		pairs(""), pairs("a", ""), pairs("a", "a"), pairs("b", "a"), pairs("\x80", "\x7f"),
 		pairs(long(maxKey + 1)), {{Key: "a", Value: long(maxValue + 1)}}, {{Key: "a"}, {Key: "b", Value: long(maxValue + 1)}},
+		append(pairs(keys(maxPairs)...), api.Pair{}),
 	} {
-		if Pairs(list) {
+		if Pairs(list) || AnyPairs(list) {
 			t.Errorf("wrong row %d is taken", i)
 		}
+	}
+	if many := pairs(keys(maxPairs + 1)...); Pairs(many) || !AnyPairs(many) {
+		t.Error("there may be 512 pairs, and no more; but for their number any")
 	}
 }
